@@ -11,7 +11,7 @@ import (
 	"loop.example/groupmulticast/impl"
 )
 
-// noAmounts are values that no key has.
+// noAmounts are values that no key and no item of a queue has.
 var noAmounts = []int{-1, -2, -255, -256, -998, -999, -1000, 1000, 1001, 1023, 1024, 1998, 14985, math.MinInt, math.MinInt + 1, math.MaxInt - 1, math.MaxInt}
 
 // noKeys are numbers that are not keys, among them some that belong to a group, or are keys modulo the size of a word.
